@@ -327,7 +327,7 @@ func (a answers) question(doubts []int) []int {
 }
 
 // smallDivisions gives all divisions of one and of two members, but for greater
-// Needs and Quorums, and many of three.
+// Needs and Quorums and the order of a pair, and many of three.
 func smallDivisions(yield func(tally.Division) bool) {
 	one, two := pairings(1), pairings(2)
 	for mark := range 16 {
@@ -385,7 +385,7 @@ func pairings(members int) []func(tally.Division) tally.Division {
 	l := []func(tally.Division) tally.Division{with(nil)}
 	if members > 1 {
 		a := []tally.Pair{pair(1, 0)}
-		l = append(l, with(a), with(nil, proxy(0, 1)), with(nil, proxy(1, 0)), with(a, proxy(0, 1)))
+		l = append(l, with(a), with(nil, proxy(0, 1)), with(nil, proxy(1, 0)), with(a, proxy(0, 1)), with(a, proxy(1, 0)))
 	}
 	if members > 2 {
 		l = append(l, with(nil, proxy(0, 1), proxy(0, 2)), with(nil, proxy(2, 1), proxy(2, 0)), with(nil, proxy(0, 2)), with([]tally.Pair{pair(0, 2)}, proxy(0, 1)), with([]tally.Pair{pair(0, 2)}, proxy(1, 0)))
